@@ -160,7 +160,7 @@ func TestDo(t *testing.T) {
 		l    []api.Comp
 		want string
 	}{
-		{"", nil, ""}, {"", parts(), ""}, {"", parts(i("aé€😀")), "aé€😀"},
+		{"", nil, ""}, {"", []api.Comp{}, ""}, {"", parts(i("aé€😀")), "aé€😀"},
 		{"abc", parts(r(3)), "abc"}, {"abc", parts(d(3)), ""}, {"abc", parts(i("x"), d(3)), "x"},
 		{"abc", parts(i("x"), r(3)), "xabc"}, {"abc", parts(r(3), i("x")), "abcx"}, {"abc", parts(r(1), i("x"), r(2)), "axbc"},
 		{"aé€😀b", parts(r(1), d(1), r(1), d(1), r(1)), "a€b"}, {"aé€😀b", parts(d(1), r(1), d(1), r(1), d(1)), "é😀"},

@@ -233,7 +233,7 @@ func TestExample(t *testing.T) {
 
 func TestTwo(t *testing.T) {
 	for _, one := range []struct{ a, b, want []api.Comp }{
-		{nil, nil, nil}, {parts(), nil, nil}, {nil, parts(), nil},
+		{nil, nil, nil}, {[]api.Comp{}, nil, nil}, {nil, []api.Comp{}, nil},
 		{parts(r(3)), parts(r(3)), parts(r(3))}, {nil, parts(i("a")), parts(i("a"))}, {parts(i("a")), parts(r(1)), parts(i("a"))}, {parts(d(3)), nil, parts(d(3))},
 		{parts(r(3)), parts(d(3)), parts(d(3))}, {parts(r(3)), parts(r(1), d(1), r(1)), parts(r(1), d(1), r(1))}, {parts(r(1), d(1), r(1)), parts(r(2)), parts(r(1), d(1), r(1))},
 		{parts(d(2), r(1)), parts(i("x"), r(1)), parts(i("x"), d(2), r(1))}, {parts(r(1), d(2)), parts(r(1), i("x")), parts(r(1), i("x"), d(2))}, // ahead of what a deleted

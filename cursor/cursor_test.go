@@ -309,7 +309,7 @@ func TestThrough(t *testing.T) {
 		l           []api.Comp
 		ahead, late complex128 // what comes if not after, and if after
 	}{
-		{0, nil, 0, 0}, {0, parts(), 0, 0}, {0, parts(i("é€")), 0, 2 + 2i}, {3 + 1i, parts(r(3)), 3 + 1i, 3 + 1i}, {2 + 2i, parts(d(2)), 0, 0}, {1, parts(d(2)), 0, 0},
+		{0, nil, 0, 0}, {0, []api.Comp{}, 0, 0}, {0, parts(i("é€")), 0, 2 + 2i}, {3 + 1i, parts(r(3)), 3 + 1i, 3 + 1i}, {2 + 2i, parts(d(2)), 0, 0}, {1, parts(d(2)), 0, 0},
 		{2 + 2i, parts(i("ab"), r(3)), 4 + 4i, 4 + 4i}, {3i, parts(i("ab"), r(3)), 5i, 2 + 5i}, {3, parts(i("ab"), r(3)), 5, 5 + 2i}, {3 + 1i, parts(r(3), i("😀b")), 3 + 1i, 5 + 1i}, {1 + 3i, parts(r(3), i("😀b")), 1 + 3i, 1 + 5i},
 		{1 + 3i, parts(r(1), d(2), r(1)), 1 + 1i, 1 + 1i}, {4 + 2i, parts(r(1), d(2), r(1)), 2 + 1i, 2 + 1i}, {1i, parts(r(1), d(2), r(1)), 1i, 1i},
 		{1 + 1i, parts(r(1), i("xyz"), d(2)), 1 + 1i, 4 + 4i}, {2 + 2i, parts(r(1), i("xyz"), d(2)), 4 + 4i, 4 + 4i}, {3 + 1i, parts(r(1), i("xyz"), d(2)), 4 + 1i, 4 + 4i}, {1i, parts(r(1), i("xyz"), d(2)), 1i, 4i}, // the Insert's place is ahead of what is deleted

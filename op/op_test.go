@@ -194,7 +194,7 @@ func TestCheck(t *testing.T) {
 		l    []api.Comp
 		want api.Errno
 	}{
-		{nil, api.OK}, {parts(), api.OK},
+		{nil, api.OK}, {[]api.Comp{}, api.OK},
 		{parts(r(1)), api.OK}, {parts(i("a")), api.OK}, {parts(d(1)), api.OK},
 		{parts(r(1), i("a"), d(1), r(1), i("b"), r(1), d(1), r(1)), api.OK},
 		{parts(d(1), r(1), i("a")), api.OK}, // behind a Delete, with a Retain between
@@ -240,7 +240,7 @@ func TestCheckInOrder(t *testing.T) {
 
 func TestNormal(t *testing.T) {
 	for _, one := range []struct{ l, want []api.Comp }{
-		{nil, nil}, {parts(), nil},
+		{nil, nil}, {[]api.Comp{}, nil},
 		{parts(d(1), i("a"), d(2), i("b"), r(3), r(4)), parts(i("ab"), d(3), r(7))},
 		{parts(r(1), d(0), r(2), i(""), r(3), api.Comp{Kind: 4, N: 1}, r(4), api.Comp{}), parts(r(10))},
 		{parts(i("a"), r(0), i("b"), d(1), r(-1), d(2), i("c")), parts(i("abc"), d(3))},
@@ -325,7 +325,7 @@ func TestBaseAndOut(t *testing.T) {
 		l         []api.Comp
 		base, out int
 	}{
-		{nil, 0, 0}, {parts(), 0, 0},
+		{nil, 0, 0}, {[]api.Comp{}, 0, 0},
 		{parts(r(3), i("é€"), d(4)), 7, 5},
 		{parts(i("aé€😀")), 0, 4}, {parts(i("e\u0301\n")), 0, 3},
 		{parts(i("\xff\xfe")), 0, 2}, {parts(i("\xe2\x82")), 0, 2}, {parts(i("\xed\xa0\x80")), 0, 3}, {parts(i("a\xf0\x9f\x98€")), 0, 5}, {parts(i("\xc0\x80")), 0, 2}, {parts(i("\xf4\x90\x80\x80")), 0, 4}, {parts(i("a\x00")), 0, 2}, {parts(i("\ufffd")), 0, 1},
@@ -345,7 +345,7 @@ func TestBaseAndOut(t *testing.T) {
 }
 
 func TestSame(t *testing.T) {
-	if !op.Same(nil, nil) || !op.Same(nil, parts()) || !op.Same(parts(), nil) {
+	if !op.Same(nil, nil) || !op.Same(nil, []api.Comp{}) || !op.Same([]api.Comp{}, nil) {
 		t.Errorf("P7.2: Same of none is false")
 	}
 	for at, a := range pool() {

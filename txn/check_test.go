@@ -228,7 +228,7 @@ func TestSame(t *testing.T) {
 			}
 		}
 	}
-	if !txn.Same(nil, nil) || !txn.Same(nil, acts()) || !txn.Same([]api.Act{}, nil) || txn.Same(nil, acts(api.Act{})) || txn.Same(acts(remove(1), remove(2)), acts(remove(1))) {
+	if !txn.Same(nil, nil) || !txn.Same(nil, []api.Act{}) || !txn.Same([]api.Act{}, nil) || txn.Same(nil, acts(api.Act{})) || txn.Same(acts(remove(1), remove(2)), acts(remove(1))) {
 		t.Error("P14.1: Same of none, or of more")
 	}
 }

@@ -62,7 +62,7 @@ func TestDoTold(t *testing.T) {
 		at   int
 		e    api.Errno
 	}{
-		{nil, nodes, 0, api.OK}, {acts(), nodes, 0, api.OK},
+		{nil, nodes, 0, api.OK}, {[]api.Act{}, nodes, 0, api.OK},
 		{acts(remove(2), remove(1), remove(4)), nil, 3, api.OK},
 		{acts(remove(1), remove(2)), nil, 0, api.ErrHeld}, {acts(remove(2), remove(2)), nil, 1, api.ErrNone}, {acts(remove(2), edit(2, r(3))), nil, 1, api.ErrNone},
 		{acts(move(2, 0, "f"), move(4, 1, "f"), edit(2, r(1), d(1), r(1)), edit(4, i("x"))), []api.Node{dir(1, 0, "d"), file(2, 0, "f", "ac"), file(4, 1, "f", "x")}, 4, api.OK},
@@ -149,7 +149,7 @@ func TestDoNil(t *testing.T) {
 		l  []api.Act
 		at int
 		e  api.Errno
-	}{{nil, 0, api.OK}, {acts(), 0, api.OK}, {acts(create(1, 0, "a", true), remove(1)), 0, api.ErrNone}, {acts(edit(1)), 0, api.ErrNone}, {acts(remove(1), remove(0)), -1, api.ErrArg}, {make([]api.Act, 21), -1, api.ErrBig}} {
+	}{{nil, 0, api.OK}, {[]api.Act{}, 0, api.OK}, {acts(create(1, 0, "a", true), remove(1)), 0, api.ErrNone}, {acts(edit(1)), 0, api.ErrNone}, {acts(remove(1), remove(0)), -1, api.ErrArg}, {make([]api.Act, 21), -1, api.ErrBig}} {
 		if y, n, e := txn.Do(nil, c.l); y != nil || n != c.at || e != c.e {
 			t.Errorf("P14.2: Do(nil, %s) is %v, %d, %d", show(c.l), y.Nodes(), n, e)
 		}

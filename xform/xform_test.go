@@ -261,7 +261,7 @@ func TestExample(t *testing.T) {
 
 func TestOver(t *testing.T) {
 	for _, one := range []struct{ a, b, first, last []api.Comp }{
-		{nil, nil, nil, nil}, {parts(), nil, nil, nil}, {nil, parts(), nil, nil},
+		{nil, nil, nil, nil}, {[]api.Comp{}, nil, nil, nil}, {nil, []api.Comp{}, nil, nil},
 		{parts(r(3)), parts(r(3)), parts(r(3)), parts(r(3))}, {nil, parts(i("é€")), parts(r(2)), parts(r(2))}, {parts(i("é€")), nil, parts(i("é€")), parts(i("é€"))},
 		{parts(i("x")), parts(i("y😀")), parts(i("x"), r(2)), parts(r(2), i("x"))}, {parts(r(1), i("x"), r(1)), parts(r(1), i("y"), r(1)), parts(r(1), i("x"), r(2)), parts(r(2), i("x"), r(1))},
 		{parts(r(2), i("x")), parts(r(2), i("y")), parts(r(2), i("x"), r(1)), parts(r(3), i("x"))}, {parts(i("x"), r(2)), parts(r(2), i("y")), parts(i("x"), r(3)), parts(i("x"), r(3))}, {parts(r(2), i("x")), parts(i("y"), r(2)), parts(r(3), i("x")), parts(r(3), i("x"))},
@@ -377,7 +377,7 @@ func TestGreatOnes(t *testing.T) {
 	if l, e := xform.Over(parts(i(long)), parts(i(long)), true); !slices.Equal(l, parts(i(long), r(2000))) || e != api.OK || op.Check(l) != api.ErrBig {
 		t.Errorf("P10.1: Over of 2000 code points put in by each is %s, %d", show(l), e)
 	}
-	even, odd, cut := parts(), parts(r(1)), parts()
+	even, odd, cut := []api.Comp{}, parts(r(1)), []api.Comp{}
 	for range 49 {
 		even, odd = append(even, i("é"), r(2)), append(odd, i("€"), r(2))
 	}
@@ -406,8 +406,8 @@ func TestManyTable(t *testing.T) {
 		want  []api.Comp
 		e     api.Errno
 	}{
-		{nil, nil, true, nil, api.OK}, {nil, rows(nil, parts()), false, nil, api.OK}, {parts(r(1), i("é"), d(1)), nil, true, parts(r(1), i("é"), d(1)), api.OK},
-		{parts(r(2), r(0), i("\xff")), nil, true, parts(r(2), r(0), i("\xff")), api.OK}, {turns(101), rows(), false, turns(101), api.OK}, // nothing is asked of it
+		{nil, nil, true, nil, api.OK}, {nil, rows(nil, []api.Comp{}), false, nil, api.OK}, {parts(r(1), i("é"), d(1)), nil, true, parts(r(1), i("é"), d(1)), api.OK},
+		{parts(r(2), r(0), i("\xff")), nil, true, parts(r(2), r(0), i("\xff")), api.OK}, {turns(101), [][]api.Comp{}, false, turns(101), api.OK}, // nothing is asked of it
 		{parts(r(1), i("x"), r(1)), rows(parts(i("a"), r(2)), parts(r(3), i("b"))), false, parts(r(2), i("x"), r(2)), api.OK},
 		{parts(i("x")), rows(parts(i("a")), parts(r(1), i("b"))), true, parts(i("x"), r(2)), api.OK}, {parts(i("x")), rows(parts(i("a")), parts(r(1), i("b")), parts(i("c"), r(2))), false, parts(r(3), i("x")), api.OK},
 		{parts(i("x")), rows(parts(i("a")), parts(i("b"), r(1))), false, parts(r(2), i("x")), api.OK}, {parts(d(3)), rows(parts(r(1), i("ab"), r(2)), parts(d(2), r(3)), parts(r(2), d(1))), true, parts(r(1), d(1)), api.OK},
