@@ -46,7 +46,7 @@ func edited(id int, l []api.Comp) effect.One { return effect.One{ID: id, Edited:
 func show[T any](l []T) string {
 	s := fmt.Sprintf("%d of", len(l))
 	for _, x := range l[:min(len(l), 6)] {
-		s += fmt.Sprintf(" %.160v", x)
+		s += fmt.Sprintf(" %.160s", fmt.Sprint(x))
 	}
 	return s
 }

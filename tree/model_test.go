@@ -54,7 +54,7 @@ func show(l []api.Node) string {
 }
 
 // showAct is an act in words, a long one cut short.
-func showAct(a api.Act) string { return fmt.Sprintf("%.200v", a) }
+func showAct(a api.Act) string { return fmt.Sprintf("%.200s", fmt.Sprint(a)) }
 
 // dice is a row of numbers without a rule that the program could follow.
 type dice uint64

@@ -184,10 +184,10 @@ func TestPlain(t *testing.T) {
 		want := plain(a)
 		got := txn.Plain(a)
 		if !same(acts(got), acts(want)) {
-			t.Fatalf("P14.1: Plain of %.120v is %.120v", a, got)
+			t.Fatalf("P14.1: Plain of %s is %s", show(acts(a)), show(acts(got)))
 		}
 		if !txn.Same(acts(got), acts(want)) || txn.Same(acts(got), acts(a)) != same(acts(want), acts(a)) {
-			t.Fatalf("P14.1: Plain of %.120v, and Same", a)
+			t.Fatalf("P14.1: Plain of %s, and Same", show(acts(a)))
 		}
 	})
 	full := api.Act{ID: 1, Parent: 2, Name: "n", Dir: true, Ops: []api.Comp{{Kind: 9, N: -1, Text: "\xff"}, i("x")}}

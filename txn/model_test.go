@@ -51,7 +51,7 @@ func dir(id, parent int, name string) api.Node {
 func show(l []api.Act) string {
 	s := fmt.Sprintf("%d acts", len(l))
 	for _, a := range l[:min(len(l), 6)] {
-		s += fmt.Sprintf(" %.120v", a)
+		s += fmt.Sprintf(" %.120s", fmt.Sprint(a))
 	}
 	return s
 }
